@@ -14,15 +14,7 @@ const (
 
 // NameOk says whether a text is a name.
 func NameOk(s string) bool {
-	if len(s) < 1 || len(s) > NameMax {
-		return false
-	}
-	for i := range len(s) {
-		if s[i] < 'a' || s[i] > 'z' {
-			return false
-		}
-	}
-	return true
+	return 1 <= len(s) && len(s) <= NameMax && lettersAlone(s)
 }
 
 // PathOk says whether names are a way.
@@ -69,6 +61,16 @@ func PathRead(text string) ([]string, bool) {
 // PathIn says whether a way begins with another one.
 func PathIn(p []string, head []string) bool {
 	return len(head) <= len(p) && slices.Equal(p[:len(head)], head)
+}
+
+// lettersAlone says whether a text has no other bytes than a to z.
+func lettersAlone(s string) bool {
+	for i := range len(s) {
+		if s[i] < 'a' || s[i] > 'z' {
+			return false
+		}
+	}
+	return true
 }
 
 // namesBetween yields what stands ahead of, between and behind the slashes of
