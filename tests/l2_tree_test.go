@@ -749,19 +749,24 @@ func TestTreeWritesIntoNoArgument(t *testing.T) {
 	}
 }
 
+// overwrite writes into all of a tree, its spare room too.
+func overwrite(x impl.Tree) {
+	nodes := x.Nodes[:cap(x.Nodes)]
+	for ino := range nodes {
+		names, kids := nodes[ino].Names[:cap(nodes[ino].Names)], nodes[ino].Kids[:cap(nodes[ino].Kids)]
+		for i := range names {
+			names[i] = "bent"
+		}
+		for i := range kids {
+			kids[i] = 99
+		}
+		nodes[ino] = file(77, "bent")
+	}
+}
+
 func TestTreeNewIsNewMemory(t *testing.T) {
 	first, second := impl.TreeNew(4), impl.TreeNew(4)
-	room := first.Nodes[:cap(first.Nodes)]
-	for i := range room {
-		names, kids := room[i].Names[:cap(room[i].Names)], room[i].Kids[:cap(room[i].Kids)]
-		for k := range names {
-			names[k] = "bent"
-		}
-		for k := range kids {
-			kids[k] = 9
-		}
-		room[i] = file(3, "bent")
-	}
+	overwrite(first)
 	for _, x := range []impl.Tree{second, impl.TreeNew(4)} {
 		if listed(x) != listed(tree(4, dir(4))) {
 			t.Errorf("an answer of TreeNew shares memory with another one:\n%s", listed(x))
