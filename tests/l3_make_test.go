@@ -517,9 +517,10 @@ func TestMakeListsThatAreNoWay(t *testing.T) {
 	}
 }
 
-func TestMakeTreesThatAreNotOk(t *testing.T) {
+// treesNotOk is trees that are not ok, each for a reason of its own.
+func treesNotOk() []impl.Tree {
 	many := tree(1, append([]impl.Node{dir(1)}, make([]impl.Node, 1<<12)...)...)
-	wrong := []impl.Tree{
+	return []impl.Tree{
 		{}, {Now: 1}, {Nodes: []impl.Node{}, Now: 1}, tree(1, free()), tree(1, file(1, "a")), tree(0, dir(1)), tree(1001, dir(1)), tree(-1, dir(1)),
 		tree(1, dir(2)), tree(1, dir(0)), tree(1, dir(1), file(1, "")), tree(1, dir(1), dir(1, "a", 1)), tree(1, dir(1, "a", 0)), tree(1, dir(1, "a", 1)),
 		tree(1, dir(1, "a", -1)), tree(1, dir(1, "a", 1), free()), tree(1, dir(1, "a", 1, "b", 1), dir(1)), tree(1, dir(1, "b", 1, "a", 1), file(1, "")),
@@ -528,8 +529,11 @@ func TestMakeTreesThatAreNotOk(t *testing.T) {
 		tree(1, impl.Node{Kind: impl.NodeDir, Names: []string{"b"}, At: 1}), tree(1, impl.Node{Kind: impl.NodeDir, Kids: []int{1}, At: 1}, file(1, "")),
 		bent(func(x *impl.Tree) { x.Nodes[9].At = 10 }), bent(func(x *impl.Tree) { x.Nodes[5].Text = "a" }), bent(func(x *impl.Tree) { x.Nodes[0].Kids[3] = 1 }),
 	}
+}
+
+func TestMakeTreesThatAreNotOk(t *testing.T) {
 	deeds := append(everyDeed(), newFile("/"), newKind("/q", 9), putText("/b", "A"), link("/", "/"), move("/", "/q"), move("/a", "/a"), drop("/"), drop("/a/x"))
-	for _, x := range wrong {
+	for _, x := range treesNotOk() {
 		for _, d := range deeds {
 			wantForm(t, x, d)
 		}
