@@ -511,6 +511,24 @@ func TestDumpReadNearlyAText(t *testing.T) {
 	}
 }
 
+// textsNearby calls f with each beginning and each end of a text, and with it where one byte is taken away or doubled, or one of these signs put ahead of it or in its place.
+func textsNearby(text string, signs string, f func(text string)) {
+	for at := range len(text) + 1 {
+		for i := range len(signs) {
+			f(text[:at] + signs[i:i+1] + text[at:])
+			if at < len(text) {
+				f(text[:at] + signs[i:i+1] + text[at+1:])
+			}
+		}
+		f(text[:at])
+		f(text[at:])
+		if at < len(text) {
+			f(text[:at] + text[at+1:])
+			f(text[:at] + text[at:at+1] + text[at:])
+		}
+	}
+}
+
 // Each byte of a text is taken away, doubled, and others are put ahead of it and in its place; each line is taken away, doubled, and put elsewhere.
 func TestDumpReadEveryTextNearby(t *testing.T) {
 	signs := "0129 \n'=-+adirzA\x00\xff"
@@ -523,20 +541,7 @@ func TestDumpReadEveryTextNearby(t *testing.T) {
 	}
 	for _, d := range []impl.Dump{keptBase(), dump(0, 1, "1"), dump(0, 10, "101", item(0, dir(10, "dir", 2)), item(2, file(1, "dir"))), dump(99, 100, "11", item(1, dir(100, "a", 1, "ab", 1)))} {
 		text := impl.DumpText(d)
-		for at := range len(text) + 1 {
-			for i := range len(signs) {
-				near(text[:at] + signs[i:i+1] + text[at:])
-				if at < len(text) {
-					near(text[:at] + signs[i:i+1] + text[at+1:])
-				}
-			}
-			near(text[:at])
-			near(text[at:])
-			if at < len(text) {
-				near(text[:at] + text[at+1:])
-				near(text[:at] + text[at:at+1] + text[at:])
-			}
-		}
+		textsNearby(text, signs, near)
 		lines := strings.SplitAfter(strings.TrimSuffix(text, "\n"), "\n")
 		lines[len(lines)-1] += "\n"
 		for i := range lines {
