@@ -1,6 +1,7 @@
 package tests
 
 import (
+	"iter"
 	"maps"
 	"regexp"
 	"slices"
@@ -237,6 +238,38 @@ func (r *draw) deed(x impl.Tree) deed {
 		d.what = "drop"
 	}
 	return d
+}
+
+// turned turns a tree until it has no turn any more, and yields, at each turn, the trees of all turns till then, each at the place of its turn.
+func (r *draw) turned(t *testing.T) iter.Seq[[]impl.Tree] {
+	return func(yield func(all []impl.Tree) bool) {
+		all := []impl.Tree{{}, impl.TreeNew(1)}
+		for range 100000 {
+			x := all[len(all)-1]
+			if x.Now == impl.TimeMost {
+				return
+			}
+			next, code := r.deed(x).do(x)
+			if code != impl.MakeFine {
+				continue
+			}
+			all = append(all, next)
+			if !yield(all) {
+				return
+			}
+		}
+		t.Fatalf("still at turn %d", len(all)-1)
+	}
+}
+
+// wantSeen asks that each of these was seen often.
+func wantSeen(t *testing.T, seen map[string]int, all ...string) {
+	t.Helper()
+	for _, what := range all {
+		if seen[what] < 100 {
+			t.Errorf("%s was seen only %d times of %v", what, seen[what], seen)
+		}
+	}
 }
 
 // A tree is turned until it has no turn any more; at each turn it is the model's.

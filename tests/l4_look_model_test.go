@@ -209,18 +209,8 @@ func TestLookTillTheLastTurn(t *testing.T) {
 	seen := map[string]int{}
 	for start := range 6 {
 		r := draw(100 + start)
-		x := impl.TreeNew(1)
-		var ahead []impl.Tree
-		for steps := 0; x.Now < 1000; steps++ {
-			if steps > 100000 {
-				t.Fatalf("still at turn %d", x.Now)
-			}
-			next, code := r.deed(x).do(x)
-			if code != impl.MakeFine {
-				continue
-			}
-			ahead = append(ahead, x)
-			x = next
+		for all := range r.turned(t) {
+			x, ahead := all[len(all)-1], all[1:len(all)-1]
 			wantLookAsModel(t, x)
 			for _, other := range []impl.Tree{ahead[len(ahead)-1], ahead[r.below(len(ahead))]} {
 				seen[fmt.Sprint("same ", wantTwoAsModel(t, other, x))]++

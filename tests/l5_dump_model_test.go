@@ -286,28 +286,14 @@ func TestDumpTillTheLastTurn(t *testing.T) {
 	seen := map[string]int{}
 	for start := range 4 {
 		r := draw(200 + start)
-		x := impl.TreeNew(1)
-		ahead := []impl.Tree{{}, x}
-		for steps := 0; x.Now < 1000; steps++ {
-			if steps > 100000 {
-				t.Fatalf("still at turn %d", x.Now)
-			}
-			next, code := r.deed(x).do(x)
-			if code != impl.MakeFine {
-				continue
-			}
-			x = next
-			ahead = append(ahead, x)
+		for all := range r.turned(t) {
+			x := all[len(all)-1]
 			for _, since := range []int{x.Now, x.Now - 1, max(x.Now-5, 1), 1 + r.below(x.Now)} {
-				wantTurnedSince(t, ahead[since], x, wantKeptAsModel(t, x, since), seen)
+				wantTurnedSince(t, all[since], x, wantKeptAsModel(t, x, since), seen)
 			}
 			wantKeptAsModel(t, x, 0)
 			wantNotKept(t, x, x.Now+1)
 		}
 	}
-	for _, what := range []string{"free", "turned", "not turned", "taken anew"} {
-		if seen[what] < 100 {
-			t.Errorf("%s was seen only %d times", what, seen[what])
-		}
-	}
+	wantSeen(t, seen, "free", "turned", "not turned", "taken anew")
 }

@@ -143,7 +143,9 @@ func okDumps(all []impl.Dump) []impl.Dump {
 
 var allLives = []string{"1", "10", "11", "100", "101", "110", "111"}
 
-func TestBackOneEverySmallOne(t *testing.T) {
+// eachSmallBack calls f with each small tree and each small thing kept, and asks that each of the codes that it tells is told often.
+func eachSmallBack(t *testing.T, f func(x impl.Tree, d impl.Dump) (code int)) {
+	t.Helper()
 	trees := smallTrees(3)
 	for i := range trees {
 		trees[i].Now = 1 + i%3
@@ -157,8 +159,7 @@ func TestBackOneEverySmallOne(t *testing.T) {
 	ended := map[int]int{}
 	for _, x := range trees {
 		for _, d := range all {
-			_, code := wantBackAsModel(t, x, d)
-			ended[code]++
+			ended[f(x, d)]++
 		}
 	}
 	for code := range 4 {
@@ -166,6 +167,13 @@ func TestBackOneEverySmallOne(t *testing.T) {
 			t.Errorf("code %d was told only %d times of %v", code, ended[code], ended)
 		}
 	}
+}
+
+func TestBackOneEverySmallOne(t *testing.T) {
+	eachSmallBack(t, func(x impl.Tree, d impl.Dump) int {
+		_, code := wantBackAsModel(t, x, d)
+		return code
+	})
 }
 
 // Each two small things kept that may belong together, and some that may not: what both bring back one thing made of them brings back, too.
@@ -227,28 +235,14 @@ func TestBackTillTheLastTurn(t *testing.T) {
 	seen := map[string]int{}
 	for start := range 4 {
 		r := draw(300 + start)
-		x := impl.TreeNew(1)
-		ahead := []impl.Tree{{}, x}
-		for steps := 0; x.Now < 1000; steps++ {
-			if steps > 100000 {
-				t.Fatalf("still at turn %d", x.Now)
-			}
-			next, code := r.deed(x).do(x)
-			if code != impl.MakeFine {
-				continue
-			}
-			x = next
-			ahead = append(ahead, x)
+		var ahead []impl.Tree
+		for ahead = range r.turned(t) {
 			wantChainBack(t, r.chain(ahead), ahead, seen)
 		}
 		// Each turn is kept since the one ahead.
-		wantBackAll(t, "all turns", chainOf(t, ahead[1:]...), impl.BackFine, x)
+		wantBackAll(t, "all turns", chainOf(t, ahead[1:]...), impl.BackFine, ahead[impl.TimeMost])
 	}
-	for _, what := range []string{"more places", "from kind 1 to 0", "from kind 2 to 0", "from kind 1 to 2", "from kind 2 to 1", "not turned in a directory that was", "turned in a directory that was not"} {
-		if seen[what] < 100 {
-			t.Errorf("%s was seen only %d times", what, seen[what])
-		}
-	}
+	wantSeen(t, seen, "more places", "from kind 1 to 0", "from kind 2 to 0", "from kind 1 to 2", "from kind 2 to 1", "not turned in a directory that was", "turned in a directory that was not")
 }
 
 // chain is some turns of a tree, ascending, the last of which is its last one; some lie close together.
